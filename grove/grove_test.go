@@ -983,6 +983,48 @@ func TestFewValues(t *testing.T) {
 	lay(4)
 }
 
+// TestTogether holds Together to what a grove of leaves says that has these values, and to its faults.
+func TestTogether(t *testing.T) {
+	var s noise = 67
+	for range 5000 {
+		way := s.below(5)
+		weights, values := make([]int, s.below(15)), make([]int, s.below(15))
+		if s.below(3) > 0 {
+			weights = make([]int, len(values))
+		}
+		for i := range weights {
+			weights[i] = s.weight()
+		}
+		for i := range values {
+			values[i] = s.value()
+		}
+		if len(weights) > 0 && s.below(4) == 0 {
+			weights[s.below(len(weights))] = []int{least, -1, 0, 1001, great}[s.below(5)]
+		}
+		wasWeights, wasValues := slices.Clone(weights), slices.Clone(values)
+		g := saying(way, weights, values...)
+		wrong := plainCheck(g)
+		want := 0
+		if wrong == none {
+			want = plainTogether(g, values)
+		}
+		if v, err := grove.Together(way, weights, values); v != want || told(err) != wrong {
+			t.Errorf("Together(%d, %v, %v) = %d, %v, want %d, %v", way, weights, values, v, err, want, wrong)
+		}
+		if !slices.Equal(weights, wasWeights) || !slices.Equal(values, wasValues) {
+			t.Errorf("%v or %v was written into", wasWeights, wasValues)
+		}
+	}
+	// Values that no leaf may have stay within what numbers may be.
+	for _, way := range ways() {
+		for _, v := range []int{least, great} {
+			if _, err := grove.Together(way, []int{1000, 1000}, []int{v, v}); err != nil {
+				t.Errorf("Together(%d) of %d = %v", way, v, err)
+			}
+		}
+	}
+}
+
 // joined gives the trees of a, then of b.
 func joined(a, b api.Grove) api.Grove {
 	g := copied(a)

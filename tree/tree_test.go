@@ -534,6 +534,34 @@ func TestOneQuestion(t *testing.T) {
 	}
 }
 
+// TestToLeft: which way a cell goes, whatever the node and the cell are.
+func TestToLeft(t *testing.T) {
+	for _, c := range []struct {
+		name string
+		node api.Node
+		cell int
+		want bool
+	}{
+		{"one below", ask(0, 5, 1, 2), 4, true},
+		{"at the Cut", ask(0, 5, 1, 2), 5, false},
+		{"one above", ask(0, 5, 1, 2), 6, false},
+		{"one below, Less", askLess(0, 5, 1, 2), 4, true},
+		{"at the Cut, Less", askLess(0, 5, 1, 2), 5, false},
+		{"not there", ask(0, 5, 1, 2), gone, false},
+		{"not there, Less", askLess(0, 5, 1, 2), gone, true},
+		{"not there, the lowest Cut, Less", askLess(0, -end, 1, 2), gone, true},
+		{"not there, the highest Cut", ask(0, end, 1, 2), gone, false},
+		{"the least number", ask(0, 5, 1, 2), least, true},
+		{"the greatest number, Less", askLess(0, 5, 1, 2), great, false},
+		{"a node far beyond", ask(great, least, great, least), 0, false},
+		{"a leaf", leaf(3), 0, false},
+	} {
+		if got := tree.ToLeft(c.node, c.cell); got != c.want {
+			t.Errorf("%s: ToLeft(%v, %d) = %v, want %v", c.name, c.node, c.cell, got, c.want)
+		}
+	}
+}
+
 // checkEnds holds Leaf to a place, and Eval to its value.
 func checkEnds(t *testing.T, l nodes, r []int, want int) {
 	t.Helper()
