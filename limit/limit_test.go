@@ -701,6 +701,50 @@ func TestWrong(t *testing.T) {
 	checkTree(t, "an empty list of spans", says(3), spans{}, tried{low: 3, high: 3})
 }
 
+// TestEachLeaf: the leaves to which rows within spans come, rising, each with its Value and the Witness of those rows; nothing is done where something is wrong.
+func TestEachLeaf(t *testing.T) {
+	type visit struct {
+		value int
+		row   []int
+	}
+	visits := func(n nodes, l spans) (seen []visit, err error) {
+		err = limit.EachLeaf(n, l, func(value int, row []int) { seen = append(seen, visit{value, row}) })
+		return seen, err
+	}
+	same := func(a, b visit) bool { return a.value == b.value && slices.Equal(a.row, b.row) }
+	for _, c := range []struct {
+		l    spans
+		want []visit
+	}{
+		{free(3), []visit{{10, []int{-end, -end, -end}}, {20, []int{-end, -end, -5}}, {30, []int{5, -end, -end}}}},
+		{spans{span(0, 4), onlyNil(), span(-5, 9)}, []visit{{20, []int{0, gone, -5}}}},
+		{spans{onlyNil(), all(), all()}, []visit{{30, []int{gone, -end, -end}}}},
+		{spans{spanNil(4, 4), span(3, 3), onlyNil()}, []visit{{10, []int{4, 3, gone}}, {30, []int{gone, 3, gone}}}},
+	} {
+		got, err := visits(two(), c.l)
+		if !slices.EqualFunc(got, c.want, same) || err != nil {
+			t.Errorf("EachLeaf within %v: %v, %v, want %v", c.l, got, err, c.want)
+			continue
+		}
+		for i := range got[1:] {
+			scribble(got[i].row, 77)
+			if !same(got[i+1], c.want[i+1]) {
+				t.Errorf("EachLeaf within %v: row %d shares memory with the one ahead", c.l, i+1)
+			}
+		}
+	}
+	for _, b := range wrongSpans() {
+		if got, err := visits(two(), b.l); got != nil || told(err) != b.want {
+			t.Errorf("%s: EachLeaf: %v, %v, want %v", b.name, got, err, b.want)
+		}
+	}
+	for _, f := range faults() {
+		if got, err := visits(f.tree, free(3)); got != nil || told(err) != f.want {
+			t.Errorf("%s: EachLeaf: %v, %v, want %v", f.name, got, err, f.want)
+		}
+	}
+}
+
 // flaw is something that is wrong with a grove.
 type flaw struct {
 	name   string
