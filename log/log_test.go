@@ -172,6 +172,9 @@ func (h *hand) has(safe int, tail octets, want ...api.Call) {
 	if l := h.Calls(); !slices.EqualFunc(l, want, same) {
 		h.Errorf("Calls = %s, want %s", shorts(l), shorts(want))
 	}
+	for _, at := range []int{lowest, -1, 0, 1, len(want) / 2, len(want) - 1, len(want), len(want) + 1, highest} {
+		h.gives(at, want)
+	}
 	if b, bytes := h.Bytes(), append(records(want...), tail...); !slices.Equal(b, bytes) {
 		h.Errorf("Bytes = %s, want %s", begin(b), begin(bytes))
 	}
@@ -180,6 +183,19 @@ func (h *hand) has(safe int, tail octets, want ...api.Call) {
 	}
 	if is, want := stand(h.Shelf()), done(want); is != want {
 		h.Errorf("Shelf stands\n%s, want\n%s", is, want)
+	}
+}
+
+// gives holds Call to one of calls, or to none where these have none.
+func (h *hand) gives(at int, want calls) {
+	h.Helper()
+	var call api.Call
+	there := at >= 0 && at < len(want)
+	if there {
+		call = want[at]
+	}
+	if c, is := h.Call(at); is != there || !same(c, call) {
+		h.Errorf("Call of %d = %s, %t, want %s, %t", at, short(c), is, short(call), there)
 	}
 }
 
@@ -1298,6 +1314,16 @@ func TestHandedOut(t *testing.T) {
 	}
 	if !slices.Equal(other, append(records(some()...), tail...)) {
 		t.Errorf("what came is %s, as another list was written into", begin(other))
+	}
+	h.has(all+20, tail, some()...)
+
+	for i := range some() {
+		c, _ := h.Call(i)
+		other, _ := h.Call(i)
+		scrawl(c.Bytes)
+		if !same(other, some()[i]) {
+			t.Errorf("call %d is %s, as another was written into", i, short(other))
+		}
 	}
 	h.has(all+20, tail, some()...)
 

@@ -116,11 +116,25 @@ func (h *hand) next(c api.Call) api.Call {
 	return c
 }
 
+// do a call; Counts is held to whether Index is one more behind it.
+func (h *hand) do(c api.Call) (api.Answer, error) {
+	h.Helper()
+	index, counts := h.Index(), h.Counts(c)
+	a, err := h.Do(c)
+	if counts != (h.Index() == index+1) {
+		h.Errorf("Counts of %s = %t; Index was %d, and is %d behind it", short(c), counts, index, h.Index())
+	}
+	if h.Counts(c) {
+		h.Errorf("behind Do of %s it Counts", short(c))
+	}
+	return a, err
+}
+
 // done does a call that is right.
 func (h *hand) done(c api.Call) api.Answer {
 	h.Helper()
 	index := h.Index()
-	a, err := h.Do(h.next(c))
+	a, err := h.do(h.next(c))
 	if err != nil || a.Index != index+1 || h.Index() != index+1 {
 		h.Fatalf("Do of %s = %v, %v, Index %d, behind Index %d", short(c), a, err, h.Index(), index)
 	}
@@ -153,7 +167,7 @@ func (h *hand) retire(name string, number int) {
 func (h *hand) fails(c api.Call, e api.Errno) {
 	h.Helper()
 	index, ahead := h.Index(), stand(h.Shelf)
-	if a, err := h.Do(h.next(c)); told(err) != e || a != (api.Answer{}) {
+	if a, err := h.do(h.next(c)); told(err) != e || a != (api.Answer{}) {
 		h.Errorf("Do of %s = %v, %v, want %v", short(c), a, err, e)
 	}
 	if h.Index() != index+1 {
@@ -168,7 +182,7 @@ func (h *hand) fails(c api.Call, e api.Errno) {
 func (h *hand) refused(c api.Call, e api.Errno) {
 	h.Helper()
 	index, ahead := h.Index(), stand(h.Shelf)
-	if a, err := h.Do(c); told(err) != e || a != (api.Answer{}) {
+	if a, err := h.do(c); told(err) != e || a != (api.Answer{}) {
 		h.Errorf("Do of %s = %v, %v, want %v", short(c), a, err, e)
 	}
 	if h.Index() != index {
@@ -182,7 +196,7 @@ func (h *hand) refused(c api.Call, e api.Errno) {
 // answered does a call, as it is, that is to be answered so; index is what Index is then.
 func (h *hand) answered(c api.Call, want api.Answer, e api.Errno, index int) {
 	h.Helper()
-	if a, err := h.Do(c); told(err) != e || a != want {
+	if a, err := h.do(c); told(err) != e || a != want {
 		h.Errorf("Do of %s = %v, %v, want %v, %v", short(c), a, err, want, e)
 	}
 	if h.Index() != index {
@@ -1418,7 +1432,7 @@ func TestHandedOut(t *testing.T) {
 	}
 }
 
-// TestAskingChangesNothing: All, Live, Pick, Grove and Index do not count.
+// TestAskingChangesNothing: All, Live, Pick, Grove, Index and Counts do not count.
 func TestAskingChangesNothing(t *testing.T) {
 	h := newHand(t)
 	h.upload("m", 1)
@@ -1432,6 +1446,7 @@ func TestAskingChangesNothing(t *testing.T) {
 				h.Live(name)
 				h.Pick(name, number)
 				h.Grove(name, number)
+				h.Counts(up(number, name, 1))
 			}
 		}
 	}
